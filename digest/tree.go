@@ -15,7 +15,7 @@ func pair(tag string, a, b api.Digest) api.Digest {
 	return Tagged(tag, append(a[:], b[:]...))
 }
 
-// firstPart returns the greatest power of 2 less than n, which is greater than 1.
+// firstPart returns the greatest power of 2 less than n; n is at least 2.
 func firstPart(n int) int {
 	return 1 << (bits.Len(uint(n-1)) - 1)
 }
